@@ -5,6 +5,7 @@ import (
 	"slices"
 
 	"ambry/api"
+	"ambry/big"
 	"ambry/code"
 	"ambry/dir"
 	"ambry/disk"
@@ -64,9 +65,8 @@ func (v *Vol) insert(l []*dir.Dir, s step) []*dir.Dir {
 
 // writeSnap writes a snapshot, with noughts behind it to the end of a sector; whether the disk did it.
 func (p plan) writeSnap(d *disk.Disk, n uint64, body []byte) bool {
-	size := len(body)
 	sum := sha.Sum(body)
-	b := []byte{byte(size >> 24), byte(size >> 16), byte(size >> 8), byte(size)}
+	b := big.Append(nil, uint64(len(body)), 4)
 	b = append(append(b, sum[:]...), body...)
 	b = append(b, make([]byte, p.size-1)...)
 	for i := range len(b) / p.size {
@@ -83,7 +83,7 @@ func (p plan) readSnap(d *disk.Disk, n uint64) ([]byte, bool, api.Errno) {
 	if errno != api.OK {
 		return nil, false, errno
 	}
-	size := int(b[0])<<24 | int(b[1])<<16 | int(b[2])<<8 | int(b[3])
+	size := int(big.Of(b[:4]))
 	if size > p.snap*p.size-frameSize {
 		return nil, false, api.OK
 	}
