@@ -7,6 +7,7 @@ import (
 	"ambry/api"
 	"ambry/cache"
 	"ambry/clone"
+	"ambry/cond"
 	"ambry/ctrl"
 	"ambry/fresh"
 	"ambry/head"
@@ -43,13 +44,14 @@ func Keep(c *cache.Cache, q api.Request, r api.Response, t api.Times, use int) (
 	return kept, dropped
 }
 
-// Renew makes the alternate for q as new as a 304 tells, and answers it; whether it is there.
+// Renew makes the alternate for q as new as a 304 tells, and answers it; whether
+// there is one. It is looked for ahead: as new as it is then it may not be q's any more.
 func Renew(c *cache.Cache, q api.Request, r api.Response, t api.Times) (api.Alt, bool) {
+	a, _ := c.Look(q, t.Came)
 	if !c.Update(q, r, t) {
 		return api.Alt{}, false
 	}
-	a, use := c.Look(q, t.Came)
-	return a, use != api.UseMiss
+	return api.Alt{Fields: a.Fields, R: cond.Merge(a.R, r), T: t}, true
 }
 
 // Aged answers a stored response with its age.

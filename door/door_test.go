@@ -77,6 +77,12 @@ func TestKeepAndRenew(t *testing.T) {
 	if a, ok := Renew(c, get(), api.Response{Status: 304}, api.Times{Came: 9}); !ok || a.T.Came != 9 {
 		t.Error("not renewed")
 	}
+	other := api.Response{Status: 304, Fields: []api.Field{{Name: "Vary", Value: "*"}}}
+	if a, ok := Renew(c, get(), other, api.Times{Came: 9}); !ok || a.R.Status != 200 || len(a.R.Fields) != 2 {
+		t.Error("what isn't the request's any more is told", a)
+	}
+	stays(false)
+	is("GET", 200, api.UseMiss, true, false)
 	is("GET", 206, api.UseCheck, false, false)
 	stays(false)
 	is("GET", 200, api.UseMiss, true, false)
