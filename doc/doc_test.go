@@ -173,7 +173,7 @@ func TestRoom(t *testing.T) { // P7.2
 	for _, c := range [][2]int{{64, 128}, {256, 128}, {257, 128}, {1001, 511}, {8192, 4096}} {
 		d := disk.New(c[0], c[1])
 		s := open(t, d)
-		if s.Room() < c[0]*c[1]/4-64*c[1] || s.Room() < 0 || 2*s.Room() > s.v.Room() {
+		if 4*s.Room() < c[0]*c[1]-256*c[1] || s.Room() < 0 || 2*s.Room() > s.v.Room() {
 			t.Errorf("%v: %d", c, s.Room())
 		}
 	}

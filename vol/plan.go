@@ -9,6 +9,7 @@ const (
 	leastSize    = 128
 	perFrag      = 256 // what a fragment counts for beside its payload
 	slots        = 16  // of a bucket
+	roundUp      = 2   // so that room is half of an odd number, too, and twice a quarter that is rounded up
 
 	// mostFrags: a volume holds at least 2000 others beside a fragment;
 	// 200 documents of layer 7 that are to be kept may have some 2134.
@@ -33,7 +34,7 @@ func planOf(d *disk.Disk) (plan, bool) {
 	if p.sectors < leastSectors || p.size < leastSize {
 		return plan{}, false
 	}
-	p.room = p.sectors*p.size/2 - 32*p.size
+	p.room = p.sectors*p.size/2 + roundUp - 32*p.size
 	p.most = min(mostFrags, p.room/perFrag) + spareFrags
 	p.snap = (p.snapBytes() + p.size - 1) / p.size
 	p.ring = p.sectors - 2*p.snap

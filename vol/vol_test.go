@@ -64,9 +64,9 @@ func TestOpenRefuses(t *testing.T) { // P6.1
 }
 
 func TestRoom(t *testing.T) { // P6.1
-	for _, c := range [][2]int{{64, 128}, {65, 128}, {100, 4096}, {1000, 511}, {8192, 4096}} {
+	for _, c := range [][2]int{{64, 128}, {65, 129}, {100, 4096}, {1001, 511}, {8192, 4096}} {
 		v := open(t, disk.New(c[0], c[1]))
-		if v.Room() < c[0]*c[1]/2-32*c[1] || v.Room() < 0 {
+		if 2*v.Room() < c[0]*c[1]-64*c[1] || v.Room() < 0 {
 			t.Errorf("%v: %d", c, v.Room())
 		}
 	}
@@ -344,4 +344,36 @@ func TestBrokenFragmentIsNone(t *testing.T) { // P6.2: never another payload
 	v = open(t, d)
 	none(t, v, api.Key{}, 0)
 	holds(t, v, api.Key{}, 1, string(make([]byte, 500)))
+}
+
+func TestAnySnapshotOpens(t *testing.T) { // P6.1: other bytes, though their sum be right
+	r := rand.New(rand.NewSource(66))
+	d := disk.New(100, 128)
+	v := open(t, d)
+	for i := range 5 {
+		must(t, v.Put(api.Key{}, i, true, make([]byte, 100*i)))
+	}
+	must(t, v.Sync())
+	good := v.snapshot()
+	for range 3000 {
+		body := bytes.Clone(good)
+		for range 1 + r.Intn(3) {
+			body[r.Intn(len(body))] = byte(r.Intn(256))
+		}
+		c := d.Copy()
+		if !v.plan.writeSnap(c, 2, body[:len(body)-r.Intn(2)]) {
+			t.Fatal("not written")
+		}
+		w := open(t, c)
+		for i := range 6 {
+			if b, _, e := w.Get(api.Key{}, i); e == api.OK && len(b) != 100*i {
+				t.Fatal("another payload")
+			}
+		}
+		for range 3 {
+			if e := w.Put(api.Key{1}, 0, true, make([]byte, r.Intn(4000))); e != api.OK || w.Sync() != api.OK {
+				t.Fatal("put", e)
+			}
+		}
+	}
 }
