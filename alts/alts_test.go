@@ -156,8 +156,13 @@ func TestBytesOpen(t *testing.T) { // P18.3
 	if !bytes.Equal(Bytes([]api.Alt{one}), w.Bytes()) {
 		t.Errorf("%x", Bytes([]api.Alt{one}))
 	}
-	if got, e := Open(Bytes(nil)); e != api.OK || len(got) != 0 {
-		t.Error("none")
+	for _, n := range []int{0, 1, 50} { // as short as can be
+		if got, e := Open(Bytes(make([]api.Alt, n))); e != api.OK || len(got) != n {
+			t.Error(n, e)
+		}
+	}
+	if got, e := Open(Bytes([]api.Alt{{T: api.Times{Asked: api.MaxTime, Came: api.MaxTime}}})); e != api.OK || got[0].T.Asked != api.MaxTime {
+		t.Error("MaxTime", e)
 	}
 }
 

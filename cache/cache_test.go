@@ -114,6 +114,22 @@ func TestPutRefuses(t *testing.T) { // P19.2
 	told(t, c, get("/a", "A", "2"), 0, "", api.UseMiss)
 }
 
+func TestAsLongAsADocument(t *testing.T) { // P19.2: at MaxDoc, and one past it
+	c := open(t, disk.New(4000, 256), 0)
+	r := reply("")
+	long := func(n int) api.Response {
+		r.Fields = of("Expires", "0", "X", string(make([]byte, n)))
+		return r
+	}
+	n := 60000
+	for len(alts.Bytes([]api.Alt{alts.Make(get("/a"), long(n), api.Times{})})) < api.MaxDoc {
+		n++
+	}
+	if !c.Put(get("/a"), long(n), api.Times{}) || c.Put(get("/a"), long(n+1), api.Times{}) {
+		t.Error("put")
+	}
+}
+
 func TestUpdate(t *testing.T) { // P19.2
 	for _, memory := range []int{0, 1 << 20} {
 		c := open(t, disk.New(2000, 256), memory)

@@ -4,6 +4,7 @@ import (
 	"bytes"
 	"math"
 	"math/rand"
+	"slices"
 	"strings"
 	"testing"
 
@@ -83,6 +84,15 @@ func TestOpenRefuses(t *testing.T) { // P11.1
 	} {
 		if body, n, e := Open([]byte(in)); e != want || body != nil || n != 0 {
 			t.Errorf("%.40q: %q %d %v", in, body, n, e)
+		}
+	}
+}
+
+func TestBytesThatLack(t *testing.T) { // P11.1
+	for _, lack := range []int{1, 2, 3, 100, 999} {
+		b := append([]byte("3e8\r\n"), make([]byte, 1000-lack)...)
+		if _, _, e := Open(slices.Clip(b)); e != api.ErrShort {
+			t.Error(lack, e)
 		}
 	}
 }

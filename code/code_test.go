@@ -39,6 +39,15 @@ func TestNumAsBytes(t *testing.T) { // P2.1
 	}
 }
 
+func TestNumsOf64Bits(t *testing.T) { // P2.2
+	for _, n := range []uint64{math.MaxUint64, 1 << 63, 1<<63 - 1, 0} {
+		r := NewReader(num(n))
+		if got := r.Num(); got != n || r.Done() != api.OK {
+			t.Errorf("%x: %x", n, got)
+		}
+	}
+}
+
 func TestTextAndFieldsAsBytes(t *testing.T) { // P2.1
 	w := NewWriter()
 	w.Text(nil)

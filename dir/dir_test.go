@@ -181,16 +181,21 @@ func TestOpenRefuses(t *testing.T) { // P5.4
 		}
 	}
 	bad := map[string]func(b []byte) []byte{
-		"more":             func(b []byte) []byte { return append(b, 0) },
-		"mark":             func(b []byte) []byte { b[3] = '2'; return b },
-		"no buckets":       func(b []byte) []byte { b[7] = 0; return b },
-		"many buckets":     func(b []byte) []byte { b[4] = 1; return b },
-		"no slots":         func(b []byte) []byte { b[11] = 0; return b },
-		"many slots":       func(b []byte) []byte { b[11] = 17; return b },
-		"more than slots":  func(b []byte) []byte { b[13] = 2; return append(b, b[14:30]...) },
-		"an entry's tag":   func(b []byte) []byte { b[20] |= 0x10; return b },
-		"an entry's turn":  func(b []byte) []byte { b[22] = 0; return b },
-		"an entry's count": func(b []byte) []byte { b[18], b[19] = 0, 0; return b },
+		"more":                func(b []byte) []byte { return append(b, 0) },
+		"mark":                func(b []byte) []byte { b[3] = '2'; return b },
+		"no buckets":          func(b []byte) []byte { b[7] = 0; return b },
+		"many buckets":        func(b []byte) []byte { b[4] = 1; return b },
+		"no slots":            func(b []byte) []byte { b[11] = 0; return b },
+		"many slots":          func(b []byte) []byte { b[11] = 17; return b },
+		"more than slots":     func(b []byte) []byte { b[13] = 2; return append(b, b[14:30]...) },
+		"an entry's tag":      func(b []byte) []byte { b[20] |= 0x10; return b },
+		"an entry's turn":     func(b []byte) []byte { b[22] = 0; return b },
+		"an entry's count":    func(b []byte) []byte { b[18], b[19] = 0, 0; return b },
+		"no bucket, one told": func(b []byte) []byte { return append([]byte("DIR1\x00\x00\x00\x00\x00\x00\x00\x01"), 0) },
+		"no slot, one told":   func(b []byte) []byte { return append([]byte("DIR1\x00\x00\x00\x01\x00\x00\x00\x00"), 0) },
+		"4097 buckets, 4096 told": func(b []byte) []byte {
+			return append([]byte("DIR1\x00\x00\x10\x01\x00\x00\x00\x01"), make([]byte, 4096)...)
+		},
 		"4097 buckets": func(b []byte) []byte {
 			return append([]byte("DIR1\x00\x00\x10\x01\x00\x00\x00\x01"), make([]byte, 4097)...)
 		},

@@ -92,8 +92,8 @@ func TestKeepAndRenew(t *testing.T) {
 
 func TestAged(t *testing.T) {
 	a := api.Alt{T: api.Times{Asked: 5, Came: 5}, R: api.Response{Status: 200, Fields: []api.Field{{Name: "age", Value: "2"}, {Name: "A", Value: "b"}}, Body: []byte("x")}}
-	r := Aged(a, 9)
-	if v, _ := head.Get(r.Fields, "Age"); v != "6" || len(r.Fields) != 2 || r.Status != 200 {
+	r := Aged(a, 99)
+	if v, _ := head.Get(r.Fields, "Age"); v != "96" || len(r.Fields) != 2 || r.Status != 200 {
 		t.Error(r)
 	}
 	r.Body[0] = 'y'

@@ -1,6 +1,7 @@
 package flow
 
 import (
+	"strings"
 	"testing"
 
 	"ambry/api"
@@ -66,6 +67,10 @@ func TestCached(t *testing.T) { // P20.3, P20.6, and the example
 	is(t, "304", Cached(q, a, 12), short+"\r\n")
 	q.Fields = of("If-None-Match", `"e"`, "Connection", "close")
 	is(t, "304, and closes", Cached(q, a, 12), short+"Connection: close\r\n\r\n")
+	q.Fields = nil
+	if got := string(Cached(q, a, 99)); !strings.Contains(got, "\r\nAge: 94\r\n") {
+		t.Error(got)
+	}
 	a.R.Status = 404
 	if got := string(Cached(q, a, 12)); got[:12] != "HTTP/1.1 404" {
 		t.Error("of another status", got)

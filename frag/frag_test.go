@@ -40,8 +40,9 @@ func TestFragAsBytes(t *testing.T) { // P4.1
 	if !bytes.Equal(b, byHand(f.Key, 0x22334455, 1, f.Turn, payload)) {
 		t.Errorf("%x", b)
 	}
-	if n := len(Frag(api.Frag{}, nil)); n != 89 {
-		t.Errorf("an empty one: %d bytes", n)
+	empty := Frag(api.Frag{}, nil)
+	if _, p, e := OpenFrag(empty); len(empty) != 89 || e != api.OK || len(p) != 0 {
+		t.Errorf("an empty one: %d bytes, %v", len(empty), e)
 	}
 	if !bytes.Equal(Frag(api.Frag{Part: -1}, nil), byHand(api.Key{}, math.MaxUint32, 0, 0, nil)) {
 		t.Error("lowest 32 bits")

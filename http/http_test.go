@@ -26,6 +26,7 @@ func TestRequest(t *testing.T) { // P12.2, and the example
 			api.Request{Method: "POST", Target: "/", Fields: []api.Field{field("Host", "h"), field("Transfer-Encoding", "CHUNKED")}, Body: []byte("abc")}},
 		{"GET / HTTP/1.1\r\nHost: h\r\nContent-Length: 2, 2\r\nContent-Length: 2\r\n\r\nab",
 			api.Request{Method: "GET", Target: "/", Fields: []api.Field{field("Host", "h"), field("Content-Length", "2, 2"), field("Content-Length", "2")}, Body: []byte("ab")}},
+		{"GET /!~ HTTP/1.1\r\nHost: h\r\n\r\n", api.Request{Method: "GET", Target: "/!~", Fields: []api.Field{field("Host", "h")}}},
 		{"GET / HTTP/1.1\r\nHost: h\r\nContent-Length: ,\r\n\r\n", api.Request{Method: "GET", Target: "/", Fields: []api.Field{field("Host", "h"), field("Content-Length", ",")}}},
 		{"GET / HTTP/1.1\r\nHost: h\r\nContent-Length: 000000000000000001\r\n\r\na",
 			api.Request{Method: "GET", Target: "/", Fields: []api.Field{field("Host", "h"), field("Content-Length", "000000000000000001")}, Body: []byte("a")}},
@@ -109,6 +110,7 @@ func TestHeadsLength(t *testing.T) { // P12.1
 		sized(8192)[:8191]:                     api.ErrShort,
 		strings.Repeat("x", 8191):              api.ErrShort,
 		strings.Repeat("x", 8192):              api.ErrLong,
+		"\r\n\r\n" + strings.Repeat("x", 9000): api.ErrLine,
 		strings.Repeat("x", 9000) + "\r\n\r\n": api.ErrLong,
 	} {
 		if _, _, e := Request([]byte(in)); e != want {
@@ -204,6 +206,7 @@ func TestRequestBytes(t *testing.T) { // P12.4
 	for _, c := range []struct{ method, body, want string }{
 		{"GET", "", "GET /x HTTP/1.1\r\nHost: h\r\nA: b\r\n\r\n"},
 		{"GET", "abc", "GET /x HTTP/1.1\r\nHost: h\r\nA: b\r\nContent-Length: 3\r\n\r\nabc"},
+		{"GET", "a", "GET /x HTTP/1.1\r\nHost: h\r\nA: b\r\nContent-Length: 1\r\n\r\na"},
 		{"POST", "", "POST /x HTTP/1.1\r\nHost: h\r\nA: b\r\nContent-Length: 0\r\n\r\n"},
 		{"PUT", "a", "PUT /x HTTP/1.1\r\nHost: h\r\nA: b\r\nContent-Length: 1\r\n\r\na"},
 		{"PATCH", "", "PATCH /x HTTP/1.1\r\nHost: h\r\nA: b\r\nContent-Length: 0\r\n\r\n"},

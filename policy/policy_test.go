@@ -40,6 +40,7 @@ func TestMay(t *testing.T) { // P17.1, P17.3, and the example
 		{"GET", nil, 302, of(cc, "max-age=0"), 0, true},
 		{"GET", nil, 302, of(cc, "s-maxage=5"), 0, true},
 		{"GET", nil, 302, of(cc, "public"), 0, true},
+		{"GET", nil, 302, of(cc, "s-maxage=0"), 0, true},
 		{"GET", nil, 302, of("Expires", "x"), 0, true},
 		{"GET", nil, 302, of(cc, "must-revalidate"), 0, false},
 		{"GET", nil, 404, nil, 0, true},

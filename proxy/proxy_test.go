@@ -254,6 +254,16 @@ func TestJoin(t *testing.T) { // P21.3, P21.4, and the example
 	is(t, p.Origin(3, reply(200, "C", fresh)), "8:200C 9:200C")
 }
 
+func TestJoinersOfAnotherWait(t *testing.T) { // P21.4
+	p := proxyOf(t)
+	p.Client(0, []byte(get("/a")))
+	p.Client(1, []byte(get("/b")))
+	p.Client(2, []byte(get("/a")))
+	p.Client(3, []byte(get("/b")))
+	is(t, p.Origin(2, reply(200, "B", fresh)), "1:200B 3:200B")
+	is(t, p.Origin(1, reply(200, "A", fresh)), "0:200A 2:200A")
+}
+
 func TestJoinOfWhatIsNotKept(t *testing.T) { // P21.4, P50.7: each begins anew
 	p := proxyOf(t)
 	for n := range 4 {
