@@ -280,8 +280,8 @@ func TestDown(t *testing.T) { // P7.1, P7.2, P7.4
 	if s.Close(w) != api.ErrDiskDead || s.Delete(api.Key{}) != api.ErrDiskDead || s.Sync() != api.ErrDiskDead {
 		t.Error("later calls")
 	}
-	if _, _, e := s.Read(api.Key{}); e == api.OK {
-		t.Error("read")
+	if m, b, e := s.Read(api.Key{}); e != api.ErrDiskDead || m != nil || b != nil {
+		t.Error("read", e)
 	}
 	d.Crash(0, 0)
 	s = open(t, d)

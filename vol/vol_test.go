@@ -377,3 +377,68 @@ func TestAnySnapshotOpens(t *testing.T) { // P6.1: other bytes, though their sum
 		}
 	}
 }
+
+func TestFullRing(t *testing.T) { // P6.5: what the cursor has just come round to is there yet
+	d := disk.New(64, 128)
+	v := open(t, d)
+	n := v.plan.most
+	size := int(v.plan.bytes())/n - 89
+	if (size+89)*n != int(v.plan.bytes()) {
+		t.Fatal("not full", n, size)
+	}
+	for i := range n {
+		must(t, v.Put(api.Key{}, i, true, bytes.Repeat([]byte{byte(i)}, size)))
+	}
+	must(t, v.Sync())
+	for _, v := range []*Vol{v, open(t, d)} {
+		for i := range n {
+			holds(t, v, api.Key{}, i, string(bytes.Repeat([]byte{byte(i)}, size)))
+		}
+	}
+}
+
+func TestWorstSnapshotHasRoom(t *testing.T) { // P6.3: all fragments in one bucket, the tail full
+	for _, c := range [][2]int{{64, 128}, {100, 129}, {700, 333}, {1000, 4096}, {8192, 4096}} {
+		v := open(t, disk.New(c[0], c[1]))
+		v.snap, v.cursor, v.turn = math.MaxUint64, math.MaxUint64, math.MaxUint64
+		v.tail = make([]byte, v.plan.size-1)
+		for i := range v.plan.most {
+			s := step{name: name{part: i}, spot: spot{at: uint64(i), size: 89, turn: 1<<63 - 1}}
+			v.index[s.name] = s.spot
+			v.line = append(v.line, s)
+		}
+		if n := len(v.snapshot()) + frameSize; n > v.plan.snapBytes() || v.plan.snapBytes() > v.plan.snap*v.plan.size {
+			t.Error(c, n, v.plan.snapBytes())
+		}
+	}
+}
+
+func TestAnotherTurnIsAnotherFragment(t *testing.T) { // P6.2
+	v := open(t, disk.New(100, 128))
+	must(t, v.Put(api.Key{}, 0, true, []byte("a")))
+	s := v.index[name{}]
+	if _, _, e := v.read(s); e != api.OK {
+		t.Error(e)
+	}
+	s.turn++
+	if _, b, e := v.read(s); e != api.ErrForm || b != nil {
+		t.Error(e)
+	}
+}
+
+func TestSyncOfNothingWritesNothing(t *testing.T) { // P6.3
+	d := disk.New(100, 128)
+	v := open(t, d)
+	must(t, v.Put(api.Key{}, 0, true, []byte("a")))
+	must(t, v.Sync())
+	d.Cut(1) // one flush
+	must(t, v.Sync())
+	must(t, v.Drop(api.Key{}, 1))
+	d.Cut(1)
+	must(t, v.Sync())
+	must(t, v.Drop(api.Key{}, 0))
+	d.Cut(1)
+	if v.Sync() != api.ErrDiskDead {
+		t.Error("what was dropped isn't told")
+	}
+}
