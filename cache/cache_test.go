@@ -130,9 +130,19 @@ func TestAsLongAsADocument(t *testing.T) { // P19.2: at MaxDoc, and one past it
 	}
 }
 
+// stored answers the alternates that lie on the disk.
+func stored(d *disk.Disk, c *Cache, q api.Request) []api.Alt {
+	c.Sync()
+	s, _ := doc.Open(d)
+	_, b, _ := s.Read(policy.Key(q))
+	l, _ := alts.Open(b)
+	return l
+}
+
 func TestUpdate(t *testing.T) { // P19.2
 	for _, memory := range []int{0, 1 << 20} {
-		c := open(t, disk.New(2000, 256), memory)
+		d := disk.New(2000, 256)
+		c := open(t, d, memory)
 		for i := range 3 {
 			a := strconv.Itoa(i)
 			c.Put(get("/a", "A", a), reply(a, "Vary", "A", "ETag", `"x"`, "Cache-Control", "max-age=5"), api.Times{})
@@ -147,7 +157,7 @@ func TestUpdate(t *testing.T) { // P19.2
 		if use != api.UseServe || !reflect.DeepEqual(got, api.Alt{Fields: of("a", "1"), R: want, T: api.Times{Asked: 20, Came: 21}}) {
 			t.Errorf("%+v %d", got, use)
 		}
-		if l := c.load(policy.Key(q)); len(l) != 3 || string(l[2].R.Body) != "1" {
+		if l := stored(d, c, q); len(l) != 3 || string(l[2].R.Body) != "1" {
 			t.Error("not at the end")
 		}
 		told(t, c, get("/a", "A", "0"), 4, "0", api.UseServe)
@@ -177,18 +187,25 @@ func TestDrop(t *testing.T) { // P19.2
 	}
 }
 
-func TestMemoryIsAskedFirst(t *testing.T) { // P19.1
-	c := open(t, disk.New(2000, 256), 1<<20)
-	c.Put(get("/a"), reply("1", "Cache-Control", "max-age=5"), api.Times{})
-	told(t, c, get("/a"), 0, "1", api.UseServe)
-	if c.spared.Load() != 1 {
-		t.Error("the store was asked")
+// wipe writes other bytes on the whole disk, under the cache.
+func wipe(d *disk.Disk) {
+	for i := range d.Sectors() {
+		d.Write(i, make([]byte, d.Size()))
 	}
-	c = open(t, disk.New(2000, 256), 64) // too little
-	c.Put(get("/a"), reply("1", "Cache-Control", "max-age=5"), api.Times{})
-	told(t, c, get("/a"), 0, "1", api.UseServe)
-	if c.spared.Load() != 0 {
-		t.Error("memory answered")
+}
+
+func TestMemoryIsAskedFirst(t *testing.T) { // P19.1
+	for memory, want := range map[int]string{1 << 20: "1", 64: "", 0: ""} {
+		d := disk.New(2000, 256)
+		c := open(t, d, memory)
+		c.Put(get("/a"), reply("1", "Cache-Control", "max-age=5"), api.Times{})
+		c.Put(get("/b"), reply(string(make([]byte, 2000))), api.Times{}) // so that the first isn't in the tail of the volume
+		wipe(d)
+		use := api.UseServe
+		if want == "" {
+			use = api.UseMiss
+		}
+		told(t, c, get("/a"), 0, want, use)
 	}
 }
 
@@ -196,13 +213,12 @@ func TestReadIntoMemory(t *testing.T) { // P19.1
 	d := disk.New(2000, 256)
 	c := open(t, d, 0)
 	c.Put(get("/a"), reply("1", "Cache-Control", "max-age=5"), api.Times{})
+	c.Put(get("/b"), reply(string(make([]byte, 2000))), api.Times{})
 	c.Sync()
 	c = open(t, d, 1<<20)
 	told(t, c, get("/a"), 0, "1", api.UseServe)
+	wipe(d)
 	told(t, c, get("/a"), 0, "1", api.UseServe)
-	if c.spared.Load() != 1 {
-		t.Error("not in memory")
-	}
 }
 
 func TestDown(t *testing.T) { // P19.2, P19.3, P21.6: with nothing kept

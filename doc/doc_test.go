@@ -144,14 +144,17 @@ func TestAbort(t *testing.T) { // P7.1: k's document is as it was
 }
 
 func TestShorterDocumentBehindLonger(t *testing.T) { // P7.1
-	s := open(t, disk.New(2000, 512))
+	d := disk.New(2000, 512)
+	s := open(t, d)
 	long := string(bytes.Repeat([]byte("l"), api.MaxDoc))
 	store(t, s, api.Key{}, string(make([]byte, api.MaxMeta)), long)
 	holds(t, s, api.Key{}, string(make([]byte, api.MaxMeta)), long)
 	store(t, s, api.Key{}, "m", "short")
 	holds(t, s, api.Key{}, "m", "short")
+	must(t, s.Sync())
+	v, _ := vol.Open(d)
 	for part := 1; part < 40; part++ { // and nothing is left of it
-		if _, _, e := s.v.Get(api.Key{}, part); e != api.ErrVolNone {
+		if _, _, e := v.Get(api.Key{}, part); e != api.ErrVolNone {
 			t.Error(part, e)
 		}
 	}
@@ -173,7 +176,8 @@ func TestRoom(t *testing.T) { // P7.2
 	for _, c := range [][2]int{{64, 128}, {256, 128}, {257, 128}, {1001, 511}, {8192, 4096}} {
 		d := disk.New(c[0], c[1])
 		s := open(t, d)
-		if 4*s.Room() < c[0]*c[1]-256*c[1] || s.Room() < 0 || 2*s.Room() > s.v.Room() {
+		v, _ := vol.Open(d)
+		if 4*s.Room() < c[0]*c[1]-256*c[1] || s.Room() < 0 || 2*s.Room() > v.Room() {
 			t.Errorf("%v: %d", c, s.Room())
 		}
 	}
@@ -182,7 +186,7 @@ func TestRoom(t *testing.T) { // P7.2
 func TestNothingForgottenBelowRoom(t *testing.T) { // P7.2
 	for _, c := range []struct{ n, size, meta, body int }{
 		{300, 128, 0, 0}, {600, 200, 10, 100}, {4000, 128, 8192, 40000}, {8192, 4096, 0, 0},
-		{8192, 4096, 8192, 65536}, {8192, 4096, 0, 36864 - headSize + 1}, {8192, 4096, 0, 4096*9 - headSize + 1},
+		{8192, 4096, 8192, 65536}, {8192, 4096, 0, 36864}, {8192, 4096, 0, 36825},
 	} {
 		s := open(t, disk.New(c.n, c.size))
 		n := min(s.Room()/(c.meta+c.body+1024), 201)
@@ -258,9 +262,6 @@ func TestAttachNext(t *testing.T) { // P7.3, P7.5
 	must(t, s.Close(w))
 	next(c, "", true)
 	done(c)
-	if len(s.readers)+len(s.writers)+len(s.open) > 0 {
-		t.Error("keeps what is over")
-	}
 }
 
 func TestDown(t *testing.T) { // P7.1, P7.2, P7.4
@@ -299,21 +300,26 @@ func TestMixedPartsAreNone(t *testing.T) { // P7.4: whole, or nothing
 	s := open(t, d)
 	store(t, s, api.Key{1}, "m", string(bytes.Repeat([]byte("a"), 9000)))
 	store(t, s, api.Key{2}, "m", string(bytes.Repeat([]byte("b"), 9000)))
+	must(t, s.Sync())
+	v, _ := vol.Open(d)
 	for part := range 3 {
-		b, last, _ := s.v.Get(api.Key{1}, part)
+		b, last, _ := v.Get(api.Key{1}, part)
 		if part == 1 {
-			b, last, _ = s.v.Get(api.Key{2}, part)
+			b, last, _ = v.Get(api.Key{2}, part)
 		}
-		must(t, s.v.Put(api.Key{3}, part, last, b))
+		must(t, v.Put(api.Key{3}, part, last, b))
 	}
+	for i, b := range []string{"", "short", string(bytes.Repeat([]byte{255}, 100)), string(make([]byte, 100))} {
+		must(t, v.Put(api.Key{4, byte(i)}, 0, true, []byte(b)))
+	}
+	must(t, v.Put(api.Key{4, 4}, 0, false, make([]byte, 100))) // and no last part
+	must(t, v.Sync())
+	s = open(t, d)
+	holds(t, s, api.Key{1}, "m", string(bytes.Repeat([]byte("a"), 9000)))
 	none(t, s, api.Key{3})
-	v, _ := vol.Open(disk.New(100, 512))
-	for _, b := range []string{"", "short", string(bytes.Repeat([]byte{255}, 100)), string(make([]byte, 100))} {
-		must(t, v.Put(api.Key{}, 0, true, []byte(b)))
-		none(t, &Store{v: v}, api.Key{})
+	for i := range 5 {
+		none(t, s, api.Key{4, byte(i)})
 	}
-	must(t, v.Put(api.Key{}, 0, false, make([]byte, 100))) // and no last part
-	none(t, &Store{v: v}, api.Key{})
 }
 
 // closing: one document that was closed.

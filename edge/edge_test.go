@@ -65,9 +65,15 @@ func is(t *testing.T, n int, b []byte, first, last string) string {
 func noted(t *testing.T, e *Edge, want string) {
 	t.Helper()
 	l := e.Log(1)
-	if len(l) != 1 || line.Text(l[0])[30:] != want || l[0].Time != e.now {
+	if len(l) != 1 || line.Text(l[0])[30:] != want {
 		t.Errorf("%+v, want %s", l, want)
 	}
+}
+
+// timeOf answers the edge's time, as its log tells it.
+func timeOf(e *Edge) int64 {
+	e.Ask(nil)
+	return e.Log(1)[0].Time
 }
 
 func TestNew(t *testing.T) { // P31.1
@@ -87,18 +93,18 @@ func TestNew(t *testing.T) { // P31.1
 		t.Error("shared")
 	}
 	for now, want := range map[int64]int64{-1: 0, 5: 5, math.MaxInt64: api.MaxTime} {
-		if e, _, _ := New(disk.New(100, 128), 0, now, ""); e.now != want {
+		if e, _, _ := New(disk.New(100, 128), 0, now, ""); timeOf(e) != want {
 			t.Error(now)
 		}
 	}
 	e.Tick(-3)
 	e.Tick(4)
-	if e.now != 1004 {
-		t.Error(e.now)
+	if timeOf(e) != 1004 {
+		t.Error(timeOf(e))
 	}
 	e.Tick(math.MaxInt64)
-	if e.now != api.MaxTime || e.Sync() != api.OK {
-		t.Error(e.now)
+	if timeOf(e) != api.MaxTime || e.Sync() != api.OK {
+		t.Error(timeOf(e))
 	}
 }
 
@@ -301,17 +307,6 @@ func TestConsoleOfAnotherName(t *testing.T) { // P31.2
 	e := edgeOf(t, "console ADMIN")
 	told(t, e, "GET /?sync HTTP/1.1\r\nHost: admin\r\n\r\n", "200 OK\r\n", "synced\n")
 	ask(t, e, "GET /?sync HTTP/1.1\r\nHost: console\r\n\r\n")
-}
-
-func TestDecoded(t *testing.T) { // P31.5
-	if s, ok := decoded("a+b%41%2b%00"); s != "a bA+\x00" || !ok {
-		t.Errorf("%q", s)
-	}
-	for _, s := range []string{"%", "%4", "%zz"} {
-		if got, ok := decoded(s); ok || got != "" {
-			t.Errorf("%q", s)
-		}
-	}
 }
 
 func TestKnown(t *testing.T) { // P31.3: what was put, and what a request that changes things dropped

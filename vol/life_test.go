@@ -9,9 +9,15 @@ import (
 	"ambry/disk"
 )
 
+// whose: a key and a part.
+type whose struct {
+	key  api.Key
+	part int
+}
+
 // put: one Put, as it was made.
 type put struct {
-	n       name
+	n       whose
 	payload []byte
 	last    bool
 }
@@ -23,19 +29,19 @@ type life struct {
 	d     *disk.Disk
 	v     *Vol
 	puts  []put
-	now   map[name]int // the number of the put that stands, from 1 on; 0: none
-	sure  map[name]int // what stood at the last Sync
-	later map[name]bool
+	now   map[whose]int // the number of the put that stands, from 1 on; 0: none
+	sure  map[whose]int // what stood at the last Sync
+	later map[whose]bool
 
 	total int   // of all puts
 	sums  []int // total ahead of each put
 }
 
-func (l *life) names() []name {
-	var all []name
+func (l *life) names() []whose {
+	var all []whose
 	for k := range 6 {
 		for part := range 12 {
-			all = append(all, name{api.Key{31: byte(k)}, part * part * 500})
+			all = append(all, whose{api.Key{31: byte(k)}, part * part * 500})
 		}
 	}
 	return all
@@ -44,7 +50,7 @@ func (l *life) names() []name {
 // mayBeGone: whether the put of that number may be forgotten.
 func (l *life) mayBeGone(i int) bool { return l.total-l.sums[i-1] > l.v.Room() }
 
-func (l *life) put(n name, payload []byte) {
+func (l *life) put(n whose, payload []byte) {
 	p := put{n, payload, l.r.Intn(2) == 0}
 	l.sums = append(l.sums, l.total)
 	l.total += len(payload) + 256
@@ -57,8 +63,8 @@ func (l *life) put(n name, payload []byte) {
 	}
 }
 
-// look holds what Get says of a name against what it may say.
-func (l *life) look(n name) {
+// look holds what Get says of a part against what it may say.
+func (l *life) look(n whose) {
 	b, last, e := l.v.Get(n.key, n.part)
 	i := l.now[n]
 	switch {
@@ -77,17 +83,17 @@ func (l *life) look(n name) {
 
 func (l *life) sync() {
 	if l.v.Sync() == api.OK {
-		l.sure = map[name]int{}
+		l.sure = map[whose]int{}
 		for n, i := range l.now {
 			l.sure[n] = i
 		}
-		l.later = map[name]bool{}
+		l.later = map[whose]bool{}
 	} else if !l.v.Down() {
 		l.t.Fatal("sync")
 	}
 }
 
-// crash: behind it, each name has what was sure, or what was put later.
+// crash: behind it, each part has what was sure, or what was put later.
 func (l *life) crash() {
 	l.d.Crash(l.r.Uint64(), l.r.Uint64()&l.r.Uint64())
 	v, e := Open(l.d)
@@ -154,7 +160,7 @@ func TestLives(t *testing.T) { // P6.2 to P6.5
 		c := sizes[seed%int64(len(sizes))]
 		d := disk.New(c[0], c[1])
 		v, _ := Open(d)
-		l := &life{t: t, r: r, d: d, v: v, now: map[name]int{}, sure: map[name]int{}, later: map[name]bool{}}
+		l := &life{t: t, r: r, d: d, v: v, now: map[whose]int{}, sure: map[whose]int{}, later: map[whose]bool{}}
 		for range 1500 {
 			l.step()
 		}
