@@ -93,13 +93,30 @@ func TestFunctionsAreSmall(t *testing.T) {
 	}
 }
 
-func TestVariablesOfPackages(t *testing.T) { // only tables that are written out, and what a sync.Once fills
+// variables answers the names of the package's variables in f.
+func variables(f *ast.File) []string {
+	var names []string
+	for _, d := range f.Decls {
+		g, ok := d.(*ast.GenDecl)
+		if !ok || g.Tok != token.VAR {
+			continue
+		}
+		for _, s := range g.Specs {
+			for _, n := range s.(*ast.ValueSpec).Names {
+				names = append(names, n.Name)
+			}
+		}
+	}
+	return names
+}
+
+func TestVariablesOfPackagesAreTables(t *testing.T) { // written out where they are declared
 	_, files := sources(t)
 	for path, f := range files {
 		pack := filepath.Base(filepath.Dir(path))
 		for _, d := range f.Decls {
 			g, ok := d.(*ast.GenDecl)
-			if !ok || g.Tok != token.VAR || pack == "sha" || pack == "date" {
+			if !ok || g.Tok != token.VAR || pack == "date" {
 				continue
 			}
 			for _, s := range g.Specs {
@@ -113,6 +130,72 @@ func TestVariablesOfPackages(t *testing.T) { // only tables that are written out
 				}
 			}
 		}
+	}
+}
+
+// changed answers what n assigns, or takes the address of.
+func changed(n ast.Node) []ast.Expr {
+	switch x := n.(type) {
+	case *ast.AssignStmt:
+		if x.Tok != token.DEFINE {
+			return x.Lhs
+		}
+	case *ast.RangeStmt:
+		if x.Tok == token.ASSIGN {
+			return []ast.Expr{x.Key, x.Value}
+		}
+	case *ast.IncDecStmt:
+		return []ast.Expr{x.X}
+	case *ast.SliceExpr:
+		return []ast.Expr{x.X}
+	case *ast.UnaryExpr:
+		if x.Op == token.AND {
+			return []ast.Expr{x.X}
+		}
+	}
+	return nil
+}
+
+// root answers the name that e is a part of; "", if it is none's.
+func root(e ast.Expr) string {
+	switch x := e.(type) {
+	case *ast.Ident:
+		return x.Name
+	case *ast.ParenExpr:
+		return root(x.X)
+	case *ast.IndexExpr:
+		return root(x.X)
+	case *ast.SelectorExpr:
+		return root(x.X)
+	}
+	return ""
+}
+
+func TestVariablesOfPackagesStay(t *testing.T) { // none is assigned, and no address is taken: by its name, so no local one may be called the same and change
+	_, files := sources(t)
+	names := map[string][]string{}
+	for path, f := range files {
+		pack := filepath.Dir(path)
+		names[pack] = append(names[pack], variables(f)...)
+	}
+	for path, f := range files {
+		if filepath.Base(filepath.Dir(path)) == "date" {
+			continue
+		}
+		ast.Inspect(f, func(n ast.Node) bool {
+			for _, e := range changed(n) {
+				if name := root(e); slices.Contains(names[filepath.Dir(path)], name) {
+					t.Errorf("%s: the variable %s changes", path, name)
+				}
+			}
+			return true
+		})
+	}
+}
+
+func TestNoCompilersRemarks(t *testing.T) {
+	_, files := sources(t)
+	for path, f := range files {
 		for _, c := range f.Comments {
 			if strings.HasPrefix(c.List[0].Text, "//go:") {
 				t.Errorf("%s: %s", path, c.List[0].Text)
