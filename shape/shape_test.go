@@ -113,10 +113,9 @@ func variables(f *ast.File) []string {
 func TestVariablesOfPackagesAreTables(t *testing.T) { // written out where they are declared
 	_, files := sources(t)
 	for path, f := range files {
-		pack := filepath.Base(filepath.Dir(path))
 		for _, d := range f.Decls {
 			g, ok := d.(*ast.GenDecl)
-			if !ok || g.Tok != token.VAR || pack == "date" {
+			if !ok || g.Tok != token.VAR {
 				continue
 			}
 			for _, s := range g.Specs {
@@ -179,9 +178,6 @@ func TestVariablesOfPackagesStay(t *testing.T) { // none is assigned, and no add
 		names[pack] = append(names[pack], variables(f)...)
 	}
 	for path, f := range files {
-		if filepath.Base(filepath.Dir(path)) == "date" {
-			continue
-		}
 		ast.Inspect(f, func(n ast.Node) bool {
 			for _, e := range changed(n) {
 				if name := root(e); slices.Contains(names[filepath.Dir(path)], name) {
