@@ -37,7 +37,16 @@ func TestParse(t *testing.T) { // P13.2, and the example
 		"Private=x":                       func(c *api.Control) { c.Private = true },
 		"public , must-revalidate":        func(c *api.Control) { c.Public, c.MustRevalidate = true, true },
 		"proxy-revalidate,only-if-cached": func(c *api.Control) { c.ProxyRevalidate, c.OnlyIfCached = true, true },
-		"no-store=x, public=, must-revalidate=1, proxy-revalidate=1, only-if-cached=1": func(c *api.Control) {},
+		"no-store=1, public=0":            func(c *api.Control) { c.NoStore, c.Public = true, true },
+		`must-revalidate=, proxy-revalidate=1, only-if-cached=""`: func(c *api.Control) {
+			c.MustRevalidate, c.ProxyRevalidate, c.OnlyIfCached = true, true, true
+		},
+		`No-Store="x, public"`:        func(c *api.Control) { c.NoStore = true },
+		"no-store==":                  func(c *api.Control) { c.NoStore = true },
+		"no-store =1, public\t=":      func(c *api.Control) {},
+		"no-store= 1, public= ":       func(c *api.Control) { c.NoStore, c.Public = true, true },
+		"no-stored=1, \"public\"":     func(c *api.Control) {},
+		"x=no-store, =public":         func(c *api.Control) {},
 		"public, public=1":            func(c *api.Control) { c.Public = true },
 		"max-age=5, max-age=3":        func(c *api.Control) { c.MaxAge = 3 },
 		"Max-Age=3, max-age=5":        func(c *api.Control) { c.MaxAge = 3 },

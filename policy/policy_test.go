@@ -48,6 +48,8 @@ func TestMay(t *testing.T) { // P17.1, P17.3, and the example
 		{"GET", nil, 599, of(cc, "max-age=5"), 0, true},
 		{"GET", of(cc, "no-store"), 200, of(cc, "max-age=5"), 0, false},
 		{"GET", nil, 200, of(cc, "no-store, max-age=5"), 0, false},
+		{"GET", nil, 200, of(cc, "no-store=1, max-age=5"), 0, false},
+		{"GET", of(cc, "no-store=1"), 200, of(cc, "max-age=5"), 0, false},
 		{"GET", nil, 200, of(cc, "private"), 0, false},
 		{"GET", nil, 200, of(cc, "private=\"x\", public"), 0, false},
 		{"GET", of(cc, "private"), 200, nil, 0, true},
